@@ -626,16 +626,23 @@ func TestFileNames(t *testing.T) {
 	}
 }
 
-// Lists of the disk have room behind them that holds something, which has to stay.
+// The disk with one more in each list, and that disk with lists that end ahead of it, so that the room behind them holds something.
+func withRoomBehind(d impl.Disk) (whole, short impl.Disk) {
+	whole = copyOfDisk(d)
+	whole.Nodes = append(whole.Nodes, impl.Node{Id: 40, Text: "behind"})
+	whole.Entries = append(whole.Entries, impl.Entry{Name: "behind", Id: 40})
+	whole.Old = append(whole.Old, impl.Entry{Name: "behind", Id: 41})
+	whole.Steps = append(whole.Steps, "+behind:40")
+	short = whole
+	short.Nodes, short.Entries = whole.Nodes[:len(d.Nodes)], whole.Entries[:len(d.Entries)]
+	short.Old, short.Steps = whole.Old[:len(d.Old)], whole.Steps[:len(d.Steps)]
+	return whole, short
+}
+
 func TestDisksAreLeftAsTheyAre(t *testing.T) {
-	for _, whole := range append(wrongDisks(), twoNamesDisk(), diskOfMany(64, 16)) {
-		whole.Nodes = append(whole.Nodes, impl.Node{Id: 40, Text: "behind"})
-		whole.Entries = append(whole.Entries, impl.Entry{Name: "behind", Id: 40})
-		whole.Old = append(whole.Old, impl.Entry{Name: "behind", Id: 41})
-		whole.Steps = append(whole.Steps, "+behind:40")
+	for _, given := range append(wrongDisks(), twoNamesDisk(), diskOfMany(64, 16)) {
+		whole, d := withRoomBehind(given)
 		before := copyOfDisk(whole)
-		d := whole
-		d.Nodes, d.Entries, d.Old, d.Steps = d.Nodes[:len(d.Nodes)-1], d.Entries[:len(d.Entries)-1], d.Old[:len(d.Old)-1], d.Steps[:len(d.Steps)-1]
 		right := impl.DiskOk(d)
 		names := impl.FileNames(d)
 		for _, name := range append([]string{"x"}, names...) {
