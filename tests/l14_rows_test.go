@@ -50,10 +50,11 @@ func slowLinkOf(records []string) int {
 	return link
 }
 
-// slowTextAt reads the names, where the program writes the one that it looks for.
+// slowTextAt reads the names, where the program writes the one that it looks for. A base that is none has the empty name.
 func slowTextAt(d impl.Disk, base int) string {
 	for _, entry := range d.Entries {
-		if kind, told := slowReadName(entry.Name); kind != impl.NmSegment || told != base {
+		kind, told := slowReadName(entry.Name)
+		if kind == impl.NmSegment && told != base || kind != impl.NmSegment && (entry.Name != "" || 0 <= base && base <= impl.MaxNumber) {
 			continue
 		}
 		for _, node := range d.Nodes {
@@ -329,12 +330,38 @@ func TestTextAtOfDisksThatAreNotRight(t *testing.T) {
 	checkTextAt(t, nodes, 4, "")
 	nodes.Nodes[0].Sure, nodes.Room, nodes.Next, nodes.Steps = -5, 0, 0, []string{"?"}
 	checkTextAt(t, nodes, 3, "one")
-	// A base that is none has no file, though there is one of the empty name.
-	nameless := diskInOrder(rowFile{"", "nameless"}, fileAt(0, "first"))
-	for _, base := range wrongPlaces {
-		checkTextAt(t, nameless, base, "")
+}
+
+// The SegmentName of a base that is none is the empty text, and of that name there may be a file, too.
+func TestTextAtOfAFileOfTheEmptyName(t *testing.T) {
+	for _, files := range [][]rowFile{{{"", "nameless"}}, {{"", "nameless"}, fileAt(0, "first")}, {fileAt(0, "first"), {"", "nameless"}, {"", "another"}}} {
+		nameless := diskInOrder(files...)
+		checkDiskOk(t, "a file of the empty name", nameless, false)
+		for _, base := range wrongPlaces {
+			checkTextAt(t, nameless, base, "nameless")
+		}
+		for _, base := range []int{0, 1, impl.MaxNumber} {
+			checkTextAt(t, nameless, base, slowTextAt(nameless, base))
+		}
 	}
-	checkTextAt(t, nameless, 0, "first")
+	known := impl.Disk{Nodes: []impl.Node{{Id: 1, Text: "some text", Sure: 9}}, Entries: []impl.Entry{{Name: "", Id: 1}}, Old: []impl.Entry{{Name: "", Id: 1}}, Room: 100, Next: 2}
+	checkTextAt(t, known, -1, "some text")
+	checkTextAt(t, known, 0, "")
+	known.Entries[0].Id = 2
+	checkTextAt(t, known, -1, "")
+	known.Entries = nil
+	checkTextAt(t, known, -1, "")
+}
+
+// Such a file has no base, so that it is not of the row, though it may go on from its last file.
+func TestRowsBesideAFileOfTheEmptyName(t *testing.T) {
+	files := filesOf(threeParts, openNew, sealedOld)
+	for n := range files {
+		changed := slices.Clone(files)
+		changed[n].name = ""
+		d := diskInOrder(changed...)
+		checkTold(t, "a file of the empty name", d, slowToldRow(d))
+	}
 }
 
 func TestRowsWithoutAFirstFile(t *testing.T) {
