@@ -647,34 +647,39 @@ func TestARowCutIntoFilesInAnyWay(t *testing.T) {
 	}
 }
 
-// A file may be gone, cut, changed, of another name, of another head, or one that stands for no record.
+// pickedDisk has a row of files, of which some may be gone, cut, changed, of another name, of another head, or stand for no record; its names may be out of order, and stand twice.
+func pickedDisk(pick func(int) int) impl.Disk {
+	ends := []ending{openNew, openOld, sealedNew, sealedOld, {2, false, "\x00"}, {1, true, "x"}}
+	var parts [][]string
+	for range 1 + pick(18) {
+		parts = append(parts, manyRecords(1+pick(3)))
+	}
+	files := filesOf(parts, ends[pick(6)], ends[pick(6)], ends[pick(6)])
+	for range pick(3) {
+		one := pick(len(files))
+		name, text := files[one].name, files[one].text
+		if len(text) < 24 {
+			continue
+		}
+		changed := []rowFile{
+			fileAt(pick(30), text), {name + ".tmp", text}, {"readme", text}, {name, ""}, {name, text + text}, {name, text[:pick(len(text))]},
+			{name, withByte(text, pick(len(text)), byte(pick(256)))}, {name, slowHeadText(headOf(1+pick(2), 1, pick(4), 0)) + text[24:]},
+		}
+		files[one] = changed[pick(len(changed))]
+	}
+	d := rowDisk(files...)
+	if pick(3) == 0 {
+		at := pick(len(files))
+		d.Entries[0], d.Entries[at] = d.Entries[at], d.Entries[0]
+	}
+	return d
+}
+
 func TestWhateverStandsOnADisk(t *testing.T) {
 	pick := picks(14)
-	ends := []ending{openNew, openOld, sealedNew, sealedOld, {2, false, "\x00"}, {1, true, "x"}}
 	longest := 0
 	for range 3000 {
-		var parts [][]string
-		for range 1 + pick(18) {
-			parts = append(parts, manyRecords(1+pick(3)))
-		}
-		files := filesOf(parts, ends[pick(6)], ends[pick(6)], ends[pick(6)])
-		for range pick(3) {
-			one := pick(len(files))
-			name, text := files[one].name, files[one].text
-			if len(text) < 24 {
-				continue
-			}
-			changed := []rowFile{
-				fileAt(pick(30), text), {name + ".tmp", text}, {"readme", text}, {name, ""}, {name, text + text}, {name, text[:pick(len(text))]},
-				{name, withByte(text, pick(len(text)), byte(pick(256)))}, {name, slowHeadText(headOf(1+pick(2), 1, pick(4), 0)) + text[24:]},
-			}
-			files[one] = changed[pick(len(changed))]
-		}
-		d := rowDisk(files...)
-		if pick(3) == 0 {
-			at := pick(len(files))
-			d.Entries[0], d.Entries[at] = d.Entries[at], d.Entries[0]
-		}
+		d := pickedDisk(pick)
 		told := slowToldRow(d)
 		longest = max(longest, len(told.chain))
 		checkTold(t, "whatever stands on a disk", d, told)
